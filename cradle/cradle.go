@@ -1,0 +1,145 @@
+// Package cradle: machines within a machine, each alone with its memory: see DOC.md.
+package cradle
+
+import (
+	"cradle/api"
+	"cradle/cache"
+	"cradle/memory"
+	"cradle/tables"
+)
+
+// Machine holds guests.
+type Machine struct {
+	memory *memory.Memory
+	guests map[int]tables.Space
+	newest int // a guest's number is not used again, so the last one given is kept
+	found  cache.Cache[place, tables.Entry]
+}
+
+// place names a page of a guest.
+type place struct {
+	guest, page int
+}
+
+// New makes a machine (P2).
+func New(frames int) (*Machine, api.Errno) {
+	if frames < api.MinFrames || frames > api.MaxFrames {
+		return nil, api.ErrFrames
+	}
+	return &Machine{memory: memory.New(frames), guests: make(map[int]tables.Space)}, api.OK
+}
+
+// Free tells how many frames are nothing (P2).
+func (m *Machine) Free() int { return m.memory.Free() }
+
+// Create makes a guest (P2).
+func (m *Machine) Create() (int, api.Errno) {
+	if len(m.guests) >= api.MaxGuests {
+		return 0, api.ErrMany
+	}
+	if m.memory.Free() < 1 {
+		return 0, api.ErrFull
+	}
+	m.newest++
+	m.guests[m.newest] = tables.NewSpace(m.memory)
+	return m.newest, api.OK
+}
+
+// Destroy ends a guest (P2).
+func (m *Machine) Destroy(guest int) api.Errno {
+	space, ok := m.guests[guest]
+	if !ok {
+		return api.ErrNone
+	}
+	space.End()
+	delete(m.guests, guest)
+	m.found.Drop(placesOf(guest)...)
+	return api.OK
+}
+
+// Map gives a guest a page (P3).
+func (m *Machine) Map(guest int, page int, writable bool) api.Errno {
+	if e := m.check(guest, isPage(page)); e != api.OK {
+		return e
+	}
+	if m.walk(guest, page).Present() {
+		return api.ErrTaken
+	}
+	space := m.guests[guest]
+	if m.memory.Free() < 1+space.Missing(page) {
+		return api.ErrFull
+	}
+	space.Enter(page, m.memory.Take(), writable)
+	return api.OK
+}
+
+// Unmap takes a page away (P3).
+func (m *Machine) Unmap(guest int, page int) api.Errno {
+	if e := m.check(guest, isPage(page)); e != api.OK {
+		return e
+	}
+	if !m.walk(guest, page).Present() {
+		return api.ErrAbsent
+	}
+	m.guests[guest].Remove(page)
+	m.found.Drop(place{guest, page})
+	return api.OK
+}
+
+// Read reads a word (P4).
+func (m *Machine) Read(guest int, address int) (int, api.Errno) {
+	if e := m.check(guest, isAddress(address)); e != api.OK {
+		return 0, e
+	}
+	entry := m.walk(guest, address/api.Words)
+	if !entry.Present() {
+		return 0, api.ErrAbsent
+	}
+	return int(m.memory.Word(entry.Number(), address%api.Words)), api.OK
+}
+
+// Write writes a word (P4).
+func (m *Machine) Write(guest int, address int, word int) api.Errno {
+	if e := m.check(guest, isAddress(address)); e != api.OK {
+		return e
+	}
+	if word < 0 || word > api.MaxWord {
+		return api.ErrValue
+	}
+	entry := m.walk(guest, address/api.Words)
+	if !entry.Present() {
+		return api.ErrAbsent
+	}
+	if !entry.Writable() {
+		return api.ErrDenied
+	}
+	m.memory.SetWord(entry.Number(), address%api.Words, uint16(word))
+	return api.OK
+}
+
+// Share shares a page (P5).
+func (m *Machine) Share(from int, page int, to int, at int, writable bool) api.Errno {
+	return api.OK
+}
+
+// Root sets a guest's root page (P6).
+func (m *Machine) Root(guest int, page int) api.Errno { return api.OK }
+
+// Load reads a word by a guest's own tables (P6).
+func (m *Machine) Load(guest int, address int) (int, api.Fault, api.Errno) {
+	return 0, api.Fault{}, api.OK
+}
+
+// Store writes one (P6).
+func (m *Machine) Store(guest int, address int, word int) (api.Fault, api.Errno) {
+	return api.Fault{}, api.OK
+}
+
+// Save tells a guest's bytes (P7).
+func (m *Machine) Save(guest int) (string, api.Errno) { return "", api.OK }
+
+// Restore makes a guest of bytes (P7).
+func (m *Machine) Restore(bytes string) (int, api.Errno) { return 0, api.OK }
+
+// Upgrade turns bytes into the newest form (P7).
+func Upgrade(bytes string) (string, api.Errno) { return "", api.OK }
