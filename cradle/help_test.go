@@ -70,3 +70,31 @@ func wantWrite(t *testing.T, m *Machine, guest, address, word int, want api.Errn
 		t.Errorf("Write(%d, %d, %d) = %d, want %d", guest, address, word, got, want)
 	}
 }
+
+func wantShare(t *testing.T, m *Machine, from, page, to, at int, writable bool, want api.Errno) {
+	t.Helper()
+	if got := m.Share(from, page, to, at, writable); got != want {
+		t.Errorf("Share(%d, %d, %d, %d, %v) = %d, want %d", from, page, to, at, writable, got, want)
+	}
+}
+
+func wantRoot(t *testing.T, m *Machine, guest, page int, want api.Errno) {
+	t.Helper()
+	if got := m.Root(guest, page); got != want {
+		t.Errorf("Root(%d, %d) = %d, want %d", guest, page, got, want)
+	}
+}
+
+func wantLoad(t *testing.T, m *Machine, guest, address, word int, fault api.Fault, errno api.Errno) {
+	t.Helper()
+	if w, f, e := m.Load(guest, address); w != word || f != fault || e != errno {
+		t.Errorf("Load(%d, %d) = %d, %v, %d, want %d, %v, %d", guest, address, w, f, e, word, fault, errno)
+	}
+}
+
+func wantStore(t *testing.T, m *Machine, guest, address, word int, fault api.Fault, errno api.Errno) {
+	t.Helper()
+	if f, e := m.Store(guest, address, word); f != fault || e != errno {
+		t.Errorf("Store(%d, %d, %d) = %v, %d, want %v, %d", guest, address, word, f, e, fault, errno)
+	}
+}

@@ -13,7 +13,7 @@ func (m *Machine) walk(guest int, page int) tables.Entry {
 	if entry, ok := m.found.Find(at); ok {
 		return entry
 	}
-	entry := m.guests[guest].Walk(page)
+	entry := m.guests[guest].space.Walk(page)
 	if entry.Present() {
 		m.found.Keep(at, entry)
 	}
@@ -29,6 +29,27 @@ func (m *Machine) check(guest int, inRange bool) api.Errno {
 		return api.ErrPage
 	}
 	return api.OK
+}
+
+// checkWord answers them for the calls that change a word.
+func (m *Machine) checkWord(guest int, address int, word int) api.Errno {
+	if e := m.check(guest, isAddress(address)); e != api.OK {
+		return e
+	}
+	if word < 0 || word > api.MaxWord {
+		return api.ErrValue
+	}
+	return api.OK
+}
+
+// word tells the word that an address means in the page of an entry: turning
+// an address changes its page alone, so the whole address serves here.
+func (m *Machine) word(entry tables.Entry, address int) int {
+	return int(m.memory.Word(entry.Number(), address%api.Words))
+}
+
+func (m *Machine) setWord(entry tables.Entry, address int, word int) {
+	m.memory.SetWord(entry.Number(), address%api.Words, uint16(word))
 }
 
 func placesOf(guest int) []place {

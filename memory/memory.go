@@ -44,7 +44,12 @@ func (m *Memory) Take() int {
 	return None
 }
 
-// Release tells that one user of the frame has let it go.
+// Hold tells that a taken frame has one user more.
+func (m *Memory) Hold(number int) {
+	m.frames[number].users++
+}
+
+// Release tells that one user of the frame has let it go; it is nothing again without the last one.
 func (m *Memory) Release(number int) {
 	m.frames[number].users--
 }

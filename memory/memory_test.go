@@ -61,3 +61,21 @@ func TestATakenFrameIsBlank(t *testing.T) {
 		}
 	}
 }
+
+func TestAFrameIsFreeWhenItsLastUserLetsGo(t *testing.T) {
+	m := New(4)
+	number := m.Take()
+	m.SetWord(number, 2, 9)
+	m.Hold(number)
+	m.Hold(number)
+	for range 2 {
+		m.Release(number)
+		if m.Free() != 3 || m.Word(number, 2) != 9 {
+			t.Errorf("with a user left: Free() = %d, word %d", m.Free(), m.Word(number, 2))
+		}
+	}
+	m.Release(number)
+	if m.Free() != 4 {
+		t.Errorf("with no user left: Free() = %d", m.Free())
+	}
+}
