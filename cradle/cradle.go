@@ -5,6 +5,7 @@ import (
 	"cradle/api"
 	"cradle/cache"
 	"cradle/memory"
+	"cradle/saved"
 	"cradle/tables"
 )
 
@@ -40,15 +41,7 @@ func (m *Machine) Free() int { return m.memory.Free() }
 
 // Create makes a guest (P2).
 func (m *Machine) Create() (int, api.Errno) {
-	if len(m.guests) >= api.MaxGuests {
-		return 0, api.ErrMany
-	}
-	if m.memory.Free() < 1 {
-		return 0, api.ErrFull
-	}
-	m.newest++
-	m.guests[m.newest] = resident{space: tables.NewSpace(m.memory), rootPage: api.NoRoot}
-	return m.newest, api.OK
+	return m.admit(saved.Guest{Root: api.NoRoot})
 }
 
 // Destroy ends a guest (P2).
@@ -184,10 +177,27 @@ func (m *Machine) Store(guest int, address int, word int) (api.Fault, api.Errno)
 }
 
 // Save tells a guest's bytes (P7).
-func (m *Machine) Save(guest int) (string, api.Errno) { return "", api.OK }
+func (m *Machine) Save(guest int) (string, api.Errno) {
+	if _, ok := m.guests[guest]; !ok {
+		return "", api.ErrNone
+	}
+	return saved.Write(m.picture(guest)), api.OK
+}
 
 // Restore makes a guest of bytes (P7).
-func (m *Machine) Restore(bytes string) (int, api.Errno) { return 0, api.OK }
+func (m *Machine) Restore(bytes string) (int, api.Errno) {
+	guest, ok := saved.Read(bytes)
+	if !ok {
+		return 0, api.ErrBytes
+	}
+	return m.admit(guest)
+}
 
 // Upgrade turns bytes into the newest form (P7).
-func Upgrade(bytes string) (string, api.Errno) { return "", api.OK }
+func Upgrade(bytes string) (string, api.Errno) {
+	guest, ok := saved.Read(bytes)
+	if !ok {
+		return "", api.ErrBytes
+	}
+	return saved.Write(guest), api.OK
+}

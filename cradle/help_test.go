@@ -98,3 +98,24 @@ func wantStore(t *testing.T, m *Machine, guest, address, word int, fault api.Fau
 		t.Errorf("Store(%d, %d, %d) = %v, %d, want %v, %d", guest, address, word, f, e, fault, errno)
 	}
 }
+
+func wantSave(t *testing.T, m *Machine, guest int, bytes string, errno api.Errno) {
+	t.Helper()
+	if b, e := m.Save(guest); b != bytes || e != errno {
+		t.Errorf("Save(%d) = %q, %d, want %q, %d", guest, b, e, bytes, errno)
+	}
+}
+
+func wantRestore(t *testing.T, m *Machine, bytes string, guest int, errno api.Errno) {
+	t.Helper()
+	if g, e := m.Restore(bytes); g != guest || e != errno {
+		t.Errorf("Restore(%q) = %d, %d, want %d, %d", bytes, g, e, guest, errno)
+	}
+}
+
+func wantUpgrade(t *testing.T, bytes, upgraded string, errno api.Errno) {
+	t.Helper()
+	if b, e := Upgrade(bytes); b != upgraded || e != errno {
+		t.Errorf("Upgrade(%q) = %q, %d, want %q, %d", bytes, b, e, upgraded, errno)
+	}
+}

@@ -20,7 +20,7 @@ type modelGuest struct {
 	pages map[int]modelPage
 }
 
-// model is the machine without frames: what P2 to P6 say, in maps.
+// model is the machine without frames: what P2 to P7 say, in maps.
 type model struct {
 	frames, newest int
 	guests         map[int]*modelGuest
@@ -225,6 +225,67 @@ func (o *model) store(guest, address, word int) (api.Fault, api.Errno) {
 	return lastFault(o.write(guest, turned, word)), api.OK
 }
 
+// bytes tells a guest in form 2, which is the plainest that tells all of it.
+func (g *modelGuest) bytes() string {
+	text := []byte{67, 86, 2, byte(g.root), byte(len(g.pages))}
+	for _, number := range slices.Sorted(maps.Keys(g.pages)) {
+		text = append(text, byte(number), 0)
+		if g.pages[number].writable {
+			text[len(text)-1] = 1
+		}
+		for _, word := range g.pages[number].words {
+			text = append(text, byte(word%256), byte(word/256))
+		}
+	}
+	sum := 0
+	for _, b := range text {
+		sum += int(b)
+	}
+	return string(append(text, byte(sum%256), byte(sum/256%256)))
+}
+
+func (o *model) save(guest int) (string, api.Errno) {
+	if o.guests[guest] == nil {
+		return "", api.ErrNone
+	}
+	return Upgrade(o.guests[guest].bytes())
+}
+
+// restore makes a guest like another one, but with pages of its own.
+func (o *model) restore(like *modelGuest) (int, api.Errno) {
+	if len(o.guests) == 4 {
+		return 0, api.ErrMany
+	}
+	guest := &modelGuest{root: like.root, pages: map[int]modelPage{}}
+	for number, page := range like.pages {
+		words := *page.words
+		guest.pages[number] = modelPage{page.writable, &words}
+	}
+	o.guests[o.newest+1] = guest
+	if o.free() < 0 {
+		delete(o.guests, o.newest+1)
+		return 0, api.ErrFull
+	}
+	o.newest++
+	return o.newest, api.OK
+}
+
+// restoreStep hands the bytes of a guest to both, or bytes of none if there is no such guest.
+func (o *model) restoreStep(t *testing.T, m *Machine, r *rand.Rand, guest int) {
+	t.Helper()
+	like := o.guests[guest]
+	if like == nil {
+		wantRestore(t, m, "CV", 0, api.ErrBytes)
+		return
+	}
+	bytes := like.bytes()
+	if r.Intn(2) == 0 {
+		bytes, _ = Upgrade(bytes)
+	}
+	g, e := o.restore(like)
+	wantRestore(t, m, bytes, g, e)
+}
+
 // someGuest is mostly one that lives, and sometimes one that is gone or never was.
 func (o *model) someGuest(r *rand.Rand) int {
 	if len(o.guests) == 0 || r.Intn(10) == 0 {
@@ -258,7 +319,7 @@ func (o *model) step(t *testing.T, m *Machine, r *rand.Rand) {
 	address := page*8 + r.Intn(8)
 	word := someWord(r)
 	writable := r.Intn(3) > 0
-	switch r.Intn(20) {
+	switch r.Intn(22) {
 	case 0:
 		g, e := o.create()
 		wantCreate(t, m, g, e)
@@ -284,6 +345,13 @@ func (o *model) step(t *testing.T, m *Machine, r *rand.Rand) {
 	case 15, 16:
 		w, f, e := o.load(guest, address)
 		wantLoad(t, m, guest, address, w, f, e)
+	case 17:
+		b, e := o.save(guest)
+		wantSave(t, m, guest, b, e)
+	case 18:
+		if r.Intn(4) == 0 {
+			o.restoreStep(t, m, r, guest)
+		}
 	default:
 		f, e := o.store(guest, address, word)
 		wantStore(t, m, guest, address, word, f, e)
@@ -294,6 +362,8 @@ func (o *model) step(t *testing.T, m *Machine, r *rand.Rand) {
 func (o *model) same(t *testing.T, m *Machine) {
 	t.Helper()
 	for guest := range o.newest + 2 {
+		b, e := o.save(guest)
+		wantSave(t, m, guest, b, e)
 		for address := -1; address <= 512; address++ {
 			w, e := o.read(guest, address)
 			wantRead(t, m, guest, address, w, e)
